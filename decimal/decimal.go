@@ -85,7 +85,7 @@ func HexDigits(s string) (uint64, api.Errno) {
 	return reader{text(s), bases[sixteen]}.number()
 }
 
-// Each goes over digits.
+// Each goes over what the digits are worth, from the lowest one on, each with its place.
 func Each(n uint64) iter.Seq2[int, byte] {
 	return digits(n, bases[ten])
 }

@@ -343,7 +343,7 @@ func TestReadBytes(t *testing.T) {
 	}
 }
 
-// gone is what is gone over: each digit, by its place.
+// gone is what is gone over: what each digit is worth, by its place.
 type gone struct {
 	place int
 	digit byte
@@ -361,22 +361,30 @@ func first(seq iter.Seq2[int, byte], most int) []gone {
 	return l
 }
 
-// backwards are a text's digits as they should be gone over.
+// backwards are a text's digits as they should be gone over: by what they are worth, not by their signs.
 func backwards(s string) []gone {
 	l := make([]gone, len(s))
 	for i := range len(s) {
-		l[len(s)-1-i] = gone{len(s) - 1 - i, s[i]}
+		l[len(s)-1-i] = gone{len(s) - 1 - i, s[i] - '0'}
 	}
 	return l
 }
 
-// P1.3: Each goes over the digits, from the lowest one on.
+// P1.3: Each goes over the digits, from the lowest one on; a digit is a byte from 0 to 9.
 func TestEach(t *testing.T) {
-	if l := first(decimal.Each(120), 99); !slices.Equal(l, []gone{{0, '0'}, {1, '2'}, {2, '1'}}) {
-		t.Errorf("Each(120): %v", l)
-	}
-	if l := first(decimal.Each(0), 99); !slices.Equal(l, []gone{{0, '0'}}) {
-		t.Errorf("Each(0): %v", l)
+	for _, c := range []struct {
+		n uint64
+		l []gone
+	}{
+		{0, []gone{{0, 0}}},
+		{9, []gone{{0, 9}}},
+		{10, []gone{{0, 0}, {1, 1}}},
+		{120, []gone{{0, 0}, {1, 2}, {2, 1}}},
+		{9876543210, []gone{{0, 0}, {1, 1}, {2, 2}, {3, 3}, {4, 4}, {5, 5}, {6, 6}, {7, 7}, {8, 8}, {9, 9}}},
+	} {
+		if l := first(decimal.Each(c.n), 99); !slices.Equal(l, c.l) {
+			t.Errorf("Each(%d): %v", c.n, l)
+		}
 	}
 	for _, n := range numbers() {
 		if l := first(decimal.Each(n), 99); !slices.Equal(l, backwards(strconv.FormatUint(n, 10))) {
@@ -421,10 +429,24 @@ func TestEachTwice(t *testing.T) {
 	whole := backwards("4096")
 	for place, digit := range seq {
 		if (gone{place, digit}) != whole[place] {
-			t.Errorf("Each(4096), the outer one: %d %c", place, digit)
+			t.Errorf("Each(4096), the outer one: %d %d", place, digit)
 		}
 		if l := first(seq, 99); !slices.Equal(l, whole) {
 			t.Errorf("Each(4096), the inner one: %v", l)
+		}
+	}
+}
+
+// P1.3: the digits, each times its place's power of the base, are the number.
+func TestEachWorth(t *testing.T) {
+	for _, n := range numbers() {
+		whole, power := new(big.Int), big.NewInt(1)
+		for _, digit := range decimal.Each(n) {
+			whole.Add(whole, new(big.Int).Mul(power, bigOf(uint64(digit))))
+			power.Mul(power, big.NewInt(10))
+		}
+		if whole.Cmp(bigOf(n)) != 0 {
+			t.Errorf("Each(%d): its digits are worth %s", n, whole)
 		}
 	}
 }

@@ -24,12 +24,12 @@ const (
 	longest = 20
 )
 
-// digits goes over a number's digits, from the lowest one on.
+// digits goes over what a number's digits are worth, from the lowest one on.
 func digits(n, base uint64) iter.Seq2[int, byte] {
 	return func(yield func(int, byte) bool) {
 		// Each going over has its own rest: n itself must stay for the next one.
 		left := n
-		for place := 0; yield(place, signs[left%base]); place++ {
+		for place := 0; yield(place, byte(left%base)); place++ {
 			left /= base
 			if left == 0 {
 				return
@@ -38,13 +38,13 @@ func digits(n, base uint64) iter.Seq2[int, byte] {
 	}
 }
 
-// written is a number's digits, the highest one ahead.
+// written is a number's digits by their signs, the highest one ahead.
 func written(n, base uint64) string {
 	var room [longest]byte
 	at := len(room)
-	for _, sign := range digits(n, base) {
+	for _, digit := range digits(n, base) {
 		at--
-		room[at] = sign
+		room[at] = signs[digit]
 	}
 	return string(room[at:])
 }
